@@ -205,6 +205,34 @@ func TestCuts(t *testing.T) {
 	}
 }
 
+func TestWhatWaitsIsLost(t *testing.T) {
+	a := made(t, config())
+	for range 100 {
+		does(t, a, wants(4))
+	}
+	does(t, a, cut(1), tick())
+	is(t, "Desired", a.State().Desired, 0)
+	is(t, "what a tick tells", len(does(t, a, tick())), 0)
+}
+
+func TestNoRoomBehindACut(t *testing.T) {
+	c := config()
+	c.Max, c.Base, c.Deadline, c.Black = 100, 100, 3, 0
+	a, _ := arena.New(64, c)
+	does(t, a, quote(0, 5, 5), wants(26), tick(), tick(), tick(), tick(), tick()) // asked for twice
+	for range 52 {
+		does(t, a, act(api.ActGrant, 0))
+	}
+	is(t, "Grants", len(a.Grants()), 52)
+	told, e := a.Do(tick())
+	is(t, "a tick by which all of them are known", told == nil && e == api.ErrFull, true)
+	before := a.State()
+	told, e = a.Do(cut(1))
+	is(t, "a cut behind which there is no room", told == nil && e == api.ErrFull, true)
+	is(t, "the ticks go on", a.Now(), 8)
+	is(t, "State", box.Same(a.State(), before), true)
+}
+
 func TestACutBehindALaunch(t *testing.T) {
 	a := made(t, config())
 	does(t, a, wants(1), tick()) // the launch goes out

@@ -147,6 +147,13 @@ func TestReady(t *testing.T) {
 	is(t, "states", states(c), []uint8{api.CloudUp, api.CloudUp, api.CloudUp, api.CloudGone, api.CloudStopped})
 }
 
+func TestReadyOfTheFirstThatWaits(t *testing.T) {
+	c := with(api.CloudStopped)
+	c.Ask(about(api.AskStart, 1, 1))
+	tells(t, "Ready of what is to start", c.Act(api.Act{Kind: api.ActReady}), ev(api.EvReady, 0, 1))
+	is(t, "Waits", len(c.Waits()), 0)
+}
+
 func TestStopAndEnd(t *testing.T) {
 	c := with(api.CloudUp, api.CloudBooting, api.CloudUp)
 	x := launch(3)

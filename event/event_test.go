@@ -133,7 +133,7 @@ func TestReadRefuses(t *testing.T) {
 		"\x03\x05\x00\x00\x00\x00\x00\x00\x00": api.ErrShort, "\x03\x05\x00\x00\x00\x00\x00\x00\x00\x02": api.ErrForm, "\x03\x00\x00\x00\x00\x00\x00\x00\x00\x02": api.ErrForm,
 		"\x03\x00\x00\x00\x00\x00\x00\x00\x00": api.ErrShort, "\x03\x00\x00\x00\x00\x00\x00\x00\x00\x01": api.ErrForm,
 		"\x07\x00\x63\x00": api.ErrForm, "\x07\x65\x64\x00": api.ErrForm, "\x07\x65": api.ErrShort, "\x11\x40\x01\x00\x00\x00\x00\x00\x00\x00": api.ErrForm,
-		"\x02": api.ErrShort, "\x02" + string(c[:len(c)-1]): api.ErrShort, "\x02" + string(c) + "\x00": api.ErrForm, cut(3, 2): api.ErrForm, cut(4, 0): api.ErrForm,
+		"\x03\x02": api.ErrShort, "\x05\x01\x02\x03": api.ErrShort, "\x02": api.ErrShort, "\x02" + string(c[:len(c)-1]): api.ErrShort, "\x02" + string(c) + "\x00": api.ErrForm, cut(3, 2): api.ErrForm, cut(4, 0): api.ErrForm,
 	} {
 		e, no := event.Read([]byte(b))
 		if !reflect.DeepEqual(e, api.Event{}) || no != want {

@@ -136,6 +136,18 @@ func TestStops(t *testing.T) {
 	}
 }
 
+func TestStopsByHundreds(t *testing.T) {
+	for live, want := range map[int64]bool{96: false, 99: false, 100: true} {
+		s := api.State{Version: 3, Desired: 1000, Refresh: api.Refresh{On: true, Most: 100, Stop: 50}}
+		for id := range uint64(4) {
+			s.Insts = append(s.Insts, one(id+1, 100, 3, false))
+		}
+		if s.Insts = append(s.Insts, one(9, live, 3, false)); extra.Stops(s) != want {
+			t.Errorf("%d of 1000 are renewed, the stop is at 50 percent: %t", 400+live, !want)
+		}
+	}
+}
+
 func TestEnds(t *testing.T) {
 	for state := uint8(1); state <= 9; state++ {
 		want := state == api.Draining || state == api.Leaving || state == api.Ending

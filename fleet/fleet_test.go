@@ -312,6 +312,42 @@ func TestTheChaptersExample(t *testing.T) {
 	}
 }
 
+func TestAtTheLastTick(t *testing.T) {
+	s, _ := box.New(config(), api.MaxTick-1)
+	next, _, _, e := fleet.Step(s, api.MaxTick, nil)
+	if e != api.OK || next.Now != api.MaxTick || !box.May(next) {
+		t.Errorf("Step at the last tick: %d", int(e))
+	}
+}
+
+func TestStatesAreNewMemory(t *testing.T) {
+	s := state()
+	s.Before = config()
+	s.Config.Plans, s.Next = []api.Plan{{At: 90}}, []uint64{90}
+	kept := box.Copy(s)
+	for i, f := range []func() api.State{
+		func() api.State { x, _ := fleet.One(s, api.Event{Kind: api.EvDesired, A: 5}); return x },
+		func() api.State { x, _ := fleet.One(s, api.Event{}); return x },
+		func() api.State { x, _ := fleet.Config(s, s.Before); return x },
+		func() api.State { x, _ := fleet.Config(s, api.Config{}); return x },
+		func() api.State { return fleet.Clock(s) },
+		func() api.State { x, _, _, _ := fleet.Step(s, 0, nil); return x },
+	} {
+		x := f()
+		for _, c := range []*api.Config{&x.Config, &x.Before} {
+			clear(c.Pools)
+			clear(c.Plans)
+		}
+		clear(x.Insts)
+		clear(x.Opens)
+		clear(x.Quotes)
+		clear(x.Next)
+		if !box.Same(s, kept) {
+			t.Fatalf("%d: memory is shared: %v", i, s)
+		}
+	}
+}
+
 func TestStep(t *testing.T) {
 	s := state()
 	for _, now := range []uint64{0, 49, 50, api.MaxTick + 1, math.MaxUint64} {

@@ -122,6 +122,10 @@ func TestMakeForgetsWhatThereWas(t *testing.T) {
 	j, e := journal.Make(d)
 	is(t, "Make", e, api.OK)
 	is(t, "Room", j.Room(), 62)
+	first, _ := d.Read(0)
+	n, _, _ := seal.Get(first)
+	second, _ := d.Read(1)
+	is(t, "the leaves", n == 1 && second == api.Block{}, true)
 	o, _ := journal.Open(d)
 	is(t, "Room of what is opened", o.Room(), 62)
 }
@@ -143,7 +147,9 @@ func TestOpenOfLeaves(t *testing.T) {
 		{api.Head{Blocks: 2, Batches: 3}, api.ErrForm, nil},
 		{api.Head{Blocks: 2}, api.ErrForm, nil},
 		{api.Head{Batches: 1}, api.ErrForm, nil},
-		{api.Head{}, api.ErrForm, []byte{0, 1}}, // no 0s behind it
+		{api.Head{}, api.ErrForm, []byte{1}}, // no 0s behind it
+		{api.Head{}, api.ErrForm, append(make([]byte, 31), 1)},
+		{api.Head{}, api.OK, make([]byte, 32)},
 	} {
 		d := newDisk(t, 64)
 		leaf(t, d, 0, 1, c.h, c.to...)
@@ -320,6 +326,25 @@ func TestBatchesRoomHead(t *testing.T) {
 		}
 		is(t, "what was told is the caller's", same(j.Batches(), want), true)
 	}
+}
+
+func TestAtNight(t *testing.T) {
+	d, j := made(t, 64)
+	want := [][]byte{stuff(100, 1), nil, stuff(7, 2)}
+	for _, b := range want {
+		j.Append(b)
+	}
+	d.Arm(1)
+	d.Flush()
+	is(t, "what counts", same(j.Batches(), want) && j.Room() == 58 && j.Head() == api.Head{Blocks: 4, Batches: 3}, true)
+}
+
+func TestNoNumberIsLeft(t *testing.T) {
+	d, j := made(t, 64)
+	var b api.Block
+	binary.LittleEndian.PutUint64(b[4:], 1<<64-1)
+	d.Write(1, b)
+	is(t, "Append", j.Append(nil) != api.OK && j.Room() == 62, true)
 }
 
 func TestBatchesAreNotKept(t *testing.T) {

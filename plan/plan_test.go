@@ -303,6 +303,12 @@ func TestLaunches(t *testing.T) {
 	}
 }
 
+func TestTheLastTick(t *testing.T) {
+	s := state(4)
+	s.Now = api.MaxTick
+	is(t, "Launches", pools(plan.Launches(s)), []int{0, 1, 1})
+}
+
 func TestWaking(t *testing.T) {
 	s := state(4)
 	s.Insts = []api.Inst{one(1, 4, true, api.Warm), one(2, 1, false, api.Warm), one(3, 1, false, api.Warm)}

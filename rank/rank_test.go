@@ -104,6 +104,10 @@ func TestOrderOfNone(t *testing.T) {
 	}
 	c, q := three()
 	c.Strategy = api.LowestPrice
+	q[0].Price = api.MaxPrice
+	if l := rank.Order(c, q, true, 7); !slices.Equal(l, []int{1, 2, 0}) {
+		t.Errorf("Order of the greatest price = %d", l)
+	}
 	q[1] = api.Quote{Price: api.MaxPrice + 1, Until: 99} // not open: not asked
 	if l := rank.Order(c, q, true, 7); !slices.Equal(l, []int{2, 0}) {
 		t.Errorf("Order = %d", l)

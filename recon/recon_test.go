@@ -25,7 +25,7 @@ func TestMay(t *testing.T) {
 		l    []api.Told
 		want bool
 	}{
-		{nil, true}, {[]api.Told{}, true}, {[]api.Told{told(1, 1)}, true}, {[]api.Told{told(1, 2), told(2, 3), told(9, 1)}, true}, {[]api.Told{{Id: 1 << 62, Token: 1 << 62, State: 1}}, true},
+		{nil, true}, {[]api.Told{}, true}, {[]api.Told{told(1, 1)}, true}, {[]api.Told{told(1, 2), told(2, 3), told(9, 1)}, true}, {[]api.Told{{Id: 1 << 62, Token: 1 << 62, State: 1}}, true}, {[]api.Told{{Id: 1, Token: 1, State: 1}}, true},
 		{[]api.Told{told(2, 1), told(1, 1)}, false}, {[]api.Told{told(2, 1), told(2, 1)}, false}, {[]api.Told{told(0, 1)}, false}, {[]api.Told{{Id: 1<<62 + 1, Token: 1, State: 1}}, false}, {[]api.Told{{Id: math.MaxUint64, Token: 1, State: 1}}, false},
 		{[]api.Told{{Id: 1, State: 1}}, false}, {[]api.Told{{Id: 1, Token: 1<<62 + 1, State: 1}}, false}, {[]api.Told{told(1, 0)}, false}, {[]api.Told{told(1, api.CloudGone)}, false}, {[]api.Told{told(1, 255)}, false},
 	} {

@@ -113,6 +113,8 @@ func TestTheConfigThatIsToBe(t *testing.T) {
 	tells(t, "pool a demand 1 0 / fleet 5 0 10 0 0 0 0 / start 400 / fleet 0 0 10 0 0 0 0 / start 400 / fleet 4 0 10 0 0 0 0 / fleet 2147483647 0 0 0 0 0 0 / start 400", "ok / error 2 / error 2 / ok / error 2 / ok / error 2 / ok")
 	tells(t, "pool a demand 1 0 / pool a demand 1 0 / fleet 1 0 10 0 0 0 0 / start 400", "ok / ok / ok / error 2")
 	tells(t, "fleet 1 3 10 9 0 0 0 / pool a demand 7 0 / start 400 / quote 0 5 5 / tick / quiet 3 / all", "ok / ok / ok / ok / 0 / ok / 1 0 7 3,1")
+	// Spread is 1: the cheapest is asked, whatever its load is.
+	tells(t, "pool a demand 1 0 / pool b demand 1 0 / fleet 2 0 9 9 0 0 0 / start 400 / quote 0 6 5 / quote 1 5 5 / desired 3 / tick / quiet 3 / all", "ok / ok / ok / ok / ok / ok / ok / 0 0 0 / ok / 1 1 1 3,2 1 1 3,3 1 1 3,3")
 	// fleet lets go what time said; time keeps what fleet said.
 	tells(t, "pool a demand 1 0 / time 1 1 1 1 50 / fleet 1 1 9 9 0 0 0 / start 400 / quote 0 5 5 / tick / grant 0 / ready 0 / tick / all", "ok / ok / ok / ok / ok / 0 / ok / ok / 0 0 / 1 0 1 3,1")
 	tells(t, "pool a demand 1 0 / fleet 1 1 9 9 0 0 0 / time 1 4 1 1 50 / start 400 / quote 0 5 5 / tick / grant 0 / ready 0 / tick / all", "ok / ok / ok / ok / ok / 0 / ok / ok / 0 0 / 1 0 1 2,1")

@@ -146,6 +146,21 @@ func TestHalfOfTheRing(t *testing.T) {
 	}
 }
 
+func TestAppendedUpToTheHalf(t *testing.T) {
+	d, s := made(t, 66)
+	for i := range 32 {
+		is(t, "Room", s.Room(), 64-i)
+		is(t, "Commit", s.Commit([]api.Change{put("a", byte(i))}), api.OK)
+	}
+	is(t, "Room of half", s.Room(), 32)
+	is(t, "Commit of all that may be", s.Commit([]api.Change{put("b", value(31, 1)...)}), api.OK) // begun anew
+	is(t, "Room", s.Room(), 64-32)
+	is(t, "Commit of one more", s.Commit([]api.Change{put("c", append(value(1, 1), 1)...)}), api.ErrFull)
+	is(t, "Commit of a byte less", s.Commit([]api.Change{gone("b")}), api.OK)
+	is(t, "Room", s.Room(), 63)
+	is(t, "Rows", same(opened(t, d).Rows(), []api.Row{row("a", 31)}), true)
+}
+
 func TestMoreThanHalfCounts(t *testing.T) {
 	d, _ := disk.New(66)
 	j, _ := journal.Make(d)

@@ -213,6 +213,16 @@ func TestOfOpens(t *testing.T) {
 	}
 }
 
+func TestTheGreatestWeightAndTheLastPool(t *testing.T) {
+	o := []api.Open{launch(api.MaxWeight, true, false, 3, 1), launch(1, true, false, 4, 1)}
+	if s := sums.Of(nil, o, 0); s != (api.Sum{Coming: api.MaxWeight + 1, Many: 2}) {
+		t.Errorf("Of = %v", s)
+	}
+	if l := sums.Load(nil, o, 1, 4); !slices.Equal(l, []int64{0, 0, 0, api.MaxWeight}) {
+		t.Errorf("Load = %d", l)
+	}
+}
+
 func TestOnlyTheFirstLaunchesCount(t *testing.T) {
 	o := slices.Repeat([]api.Open{launch(1, true, false, 0, 1)}, api.MaxInst)
 	o = append(o, launch(50, true, false, 0, 1), launch(50, true, true, 0, 2))

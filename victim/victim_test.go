@@ -175,6 +175,12 @@ func TestWhatIsAskedInVain(t *testing.T) {
 			t.Errorf("%d: %d, %v, %d %t, %d %t", i, victim.Floor(s), goes(s), first, ok, swap, is)
 		}
 	}
+	for _, do := range []func(s *api.State){func(s *api.State) { s.Desired = api.MaxCap }, func(s *api.State) { s.Refresh.Most = 200 }, func(s *api.State) { s.Refresh.Least = 100 }} {
+		s := good()
+		if do(&s); victim.Floor(s) != 4 {
+			t.Errorf("the greatest of all is asked about in vain")
+		}
+	}
 	s := good()
 	s.Refresh = api.Refresh{On: true, Stopped: true, Least: -5, Most: 7}
 	if victim.Floor(s) != 4 {

@@ -76,6 +76,14 @@ func TestErrArgOfMetric(t *testing.T) {
 	}
 }
 
+func TestTheLongestCooldown(t *testing.T) {
+	c := config()
+	c.Cool = api.MaxSpan
+	if n, end, e := want.Metric(c, 4, 0, 3, 100); n != 8 || end != 3+api.MaxSpan || e != api.OK {
+		t.Errorf("Metric = %d, %d, %d", n, end, int(e))
+	}
+}
+
 func TestSet(t *testing.T) {
 	for _, x := range []struct {
 		n, want int64

@@ -24,6 +24,9 @@ func TestNew(t *testing.T) {
 			t.Errorf("New(%d) is there", most)
 		}
 	}
+	one := wheel.New[string](1)
+	is(t, "Set in a wheel of one", one.Set("a", 1), api.OK)
+	is(t, "Set of a second", one.Set("b", 1), api.ErrFull)
 	if w := wheel.New[string](math.MaxInt); w == nil || w.Set("a", 1) != api.OK {
 		t.Errorf("New of the most takes nothing")
 	}
