@@ -185,7 +185,7 @@ func TestCuts(t *testing.T) {
 			if a.Now() == 2 { // it did not ring within the step
 				is(t, "what it tells", len(told), 2)
 				is(t, "Desired", a.State().Desired, 3)
-				does(t, a, tick(), tick(), tick()) // nor later
+				does(t, a, cut(-1), tick(), cut(math.MinInt)) // nor later
 				is(t, "Now", a.Now(), 5)
 				is(t, "it was not cut", arm == 0 || arm > 5, true)
 				continue
@@ -258,6 +258,18 @@ func TestQuietLetsAllGoWell(t *testing.T) {
 	does(t, a, wants(0))
 	is(t, "Quiet", a.Quiet(20), api.OK)
 	is(t, "how much serves", live(a), 0)
+}
+
+func TestQuietLetsEachHookGoOn(t *testing.T) {
+	c := config()
+	c.HookIn, c.HookOut, c.Drain = 1000, 1000, 0
+	a := made(t, c)
+	does(t, a, wants(3))
+	is(t, "Quiet", a.Quiet(8), api.OK)
+	is(t, "how much serves", live(a), 3)
+	does(t, a, wants(0))
+	is(t, "Quiet", a.Quiet(8), api.OK)
+	is(t, "how many there are", len(a.State().Insts), 0)
 }
 
 // P33.2
