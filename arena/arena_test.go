@@ -10,6 +10,7 @@ import (
 	"cohort/box"
 	"cohort/conf"
 	"cohort/extra"
+	"cohort/rank"
 	"cohort/sums"
 	"cohort/victim"
 	"cohort/warm"
@@ -432,8 +433,46 @@ func TestNoticed(t *testing.T) {
 	}
 }
 
+// checkStep holds a step against P0.1 to P0.3, by the states ahead of it and
+// behind it; it tells how many launches went out for the first time.
+func checkStep(t *testing.T, ahead, s api.State) (launches int) {
+	t.Helper()
+	there := sums.Of(s.Insts, s.Opens, 0)
+	most, asked := conf.Weight(s.Config), false
+	for _, o := range s.Opens {
+		if o.R.Token <= ahead.Token || o.R.Warm || o.R.Kind != api.AskLaunch && o.R.Kind != api.AskStart {
+			continue
+		}
+		asked = true
+		if o.R.Kind == api.AskStart {
+			i, _ := sums.Find(s.Insts, o.R.Id)
+			most = max(most, i.Weight)
+			continue
+		}
+		launches++
+		first := 1
+		if s.Config.Strategy == api.LowestPrice {
+			first = int(s.Config.Spread)
+		}
+		order := rank.Order(s.Config, s.Quotes, o.Spot, s.Now)
+		if at := slices.Index(order, o.R.Pool); at < 0 || at >= first {
+			t.Fatalf("P0.1: the pool %d is asked, where the order is %d: %+v", o.R.Pool, order, s)
+		}
+	}
+	if asked && there.Live+there.Coming >= s.Desired+extra.Of(s)+most {
+		t.Fatalf("P0.3: there is %d: %+v", there.Live+there.Coming, s)
+	}
+	for _, i := range ahead.Insts {
+		n, _ := sums.Find(s.Insts, i.Id)
+		if i.State == api.Serving && n.State == api.Draining && !n.Noticed && !n.Spot && there.LiveDemand < victim.Floor(s) {
+			t.Fatalf("P0.2: %d is drained, %d stays on demand: %+v", i.Id, there.LiveDemand, s)
+		}
+	}
+	return launches
+}
+
 func TestWhatGoesOut(t *testing.T) {
-	again := 0
+	again, launches := 0, 0
 	for seed := range 60 {
 		d := dice(seed + 1000)
 		a := made(t, d.config())
@@ -441,10 +480,14 @@ func TestWhatGoesOut(t *testing.T) {
 		seen := 0
 		for range 200 {
 			m := d.move(a)
+			ahead := a.State()
 			if _, e := a.Do(m); e != api.OK {
 				t.Fatalf("seed %d: %v: %d", seed, m, int(e))
 			}
 			s := a.State()
+			if m.Kind == api.MoveTick && m.Arm == 0 {
+				launches += checkStep(t, ahead, s)
+			}
 			for _, r := range a.Sent()[seen:] {
 				if was, ok := tokens[r.Token]; ok {
 					again++
@@ -469,7 +512,7 @@ func TestWhatGoesOut(t *testing.T) {
 			}
 		}
 	}
-	if again < 50 {
-		t.Errorf("%d went out again: too few to tell", again)
+	if again < 50 || launches < 200 {
+		t.Errorf("%d went out again, %d launches for the first time: too few to tell", again, launches)
 	}
 }
