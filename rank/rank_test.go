@@ -108,6 +108,11 @@ func TestOrderOfNone(t *testing.T) {
 	if l := rank.Order(c, q, true, 7); !slices.Equal(l, []int{1, 2, 0}) {
 		t.Errorf("Order of the greatest price = %d", l)
 	}
+	c.Pools, q = append(c.Pools, api.Pool{Weight: 1}), append(q, api.Quote{Price: api.MaxPrice + 1})
+	if l := rank.Order(c, q, true, 7); len(l) != 0 {
+		t.Errorf("Order where an open pool on demand has too great a price = %d", l)
+	}
+	q = q[:3]                                            // it was not told: not open
 	q[1] = api.Quote{Price: api.MaxPrice + 1, Until: 99} // not open: not asked
 	if l := rank.Order(c, q, true, 7); !slices.Equal(l, []int{2, 0}) {
 		t.Errorf("Order = %d", l)
