@@ -2,9 +2,12 @@ package victim_test
 
 import (
 	"math"
+	"slices"
 	"testing"
 
 	"cohort/api"
+	"cohort/extra"
+	"cohort/split"
 	"cohort/victim"
 )
 
@@ -216,6 +219,23 @@ func TestWhatFollows(t *testing.T) {
 		}
 		some := false
 		first, ok := victim.First(s)
+		wanted, _ := split.Want(s.Config, s.Desired)
+		least := [3]uint64{9, 9, 9}
+		for _, i := range s.Insts {
+			at := [3]uint64{1, 1, i.Id} // what gives way, the market there is too much of, the Id
+			if extra.Gives(s, i) {
+				at[0] = 0
+			}
+			if i.Spot != (demand > wanted) {
+				at[1] = 0
+			}
+			if victim.MayGo(s, i.Id) && slices.Compare(at[:], least[:]) < 0 {
+				least = at
+			}
+		}
+		if ok && first != least[2] {
+			t.Fatalf("%v: the first is %d, want %d", s, first, least[2])
+		}
 		for _, i := range s.Insts {
 			if !victim.MayGo(s, i.Id) {
 				if ok && i.Id == first {
