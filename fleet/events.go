@@ -25,35 +25,37 @@ type act func(s api.State, x api.Event) (api.State, api.Errno)
 
 func (a act) do(s api.State, x api.Event) (api.State, api.Errno) { return a(s, x) }
 
-// becomes is what becomes of the instance of an event, and which request about
-// it is answered by that (0: none).
-type becomes struct {
-	what    func(x api.Event) uint8
-	answers uint8
-}
+// needs does an event to the instance that it is of.
+type needs func(s api.State, x api.Event, i api.Inst) (api.State, api.Errno)
 
-// find finds the instance of an event ahead of what becomes of it.
-type find struct{ becomes }
+func (n needs) to(s api.State, x api.Event, i api.Inst) (api.State, api.Errno) { return n(s, x, i) }
+
+// find finds the instance of an event, for what needs it.
+type find struct{ needs }
 
 func (f find) do(s api.State, x api.Event) (api.State, api.Errno) {
-	if _, ok := sums.Find(s.Insts, x.Id); !ok {
+	i, ok := sums.Find(s.Insts, x.Id)
+	if !ok {
 		return s, api.ErrNone
 	}
-	next, e := plan.Do(s, x.Id, f.what(x), x.At)
-	if e != api.OK {
-		return s, e
-	}
-	for _, o := range next.Opens {
-		if o.R.Id == x.Id && o.R.Kind == f.answers {
-			next.Opens, _ = ledger.Close(next.Opens, o.R.Token)
-		}
-	}
-	return next, api.OK
+	return f.to(s, x, i)
 }
 
-// finds tells a doer of that alone which becomes of the instance.
-func finds(what, answers uint8) doer {
-	return find{becomes{func(api.Event) uint8 { return what }, answers}}
+// becomes tells who lets that become of an instance, by which a kind of request
+// about it is answered (0: none).
+func becomes(what, answers uint8) find {
+	return find{func(s api.State, x api.Event, i api.Inst) (api.State, api.Errno) {
+		next, e := plan.Do(s, i.Id, what, x.At)
+		if e != api.OK {
+			return s, e
+		}
+		for _, o := range next.Opens {
+			if o.R.Id == i.Id && o.R.Kind == answers {
+				next.Opens, _ = ledger.Close(next.Opens, o.R.Token)
+			}
+		}
+		return next, api.OK
+	}}
 }
 
 // doers tells what does the events of each kind.
@@ -61,30 +63,30 @@ func doers() map[uint8]doer {
 	return map[uint8]doer{
 		api.EvDesired:  act(desired),
 		api.EvConfig:   act(config),
-		api.EvHold:     act(hold),
-		api.EvBeat:     finds(api.DoBeat, 0),
-		api.EvDone:     find{becomes{done, 0}},
+		api.EvHold:     find{hold},
+		api.EvBeat:     becomes(api.DoBeat, 0),
+		api.EvDone:     find{done},
 		api.EvMetric:   act(metric),
 		api.EvRefresh:  act(refresh),
 		api.EvCancel:   act(cancel),
 		api.EvRollback: act(rollback),
 		api.EvGranted:  act(granted),
 		api.EvRefused:  act(refused),
-		api.EvReady:    finds(api.DoReady, api.AskStart),
-		api.EvNotice:   finds(api.DoNotice, 0),
-		api.EvRisk:     finds(api.DoRisk, 0),
-		api.EvGone:     act(gone),
-		api.EvStopped:  finds(api.DoStopped, api.AskStop),
+		api.EvReady:    becomes(api.DoReady, api.AskStart),
+		api.EvNotice:   becomes(api.DoNotice, 0),
+		api.EvRisk:     becomes(api.DoRisk, 0),
+		api.EvGone:     find{gone},
+		api.EvStopped:  becomes(api.DoStopped, api.AskStop),
 		api.EvQuote:    act(quote),
 	}
 }
 
-// done tells whether a hook goes on, or is left.
-func done(x api.Event) uint8 {
+// done lets a hook go on, or be left.
+func done(s api.State, x api.Event, i api.Inst) (api.State, api.Errno) {
 	if x.On {
-		return api.DoGoOn
+		return becomes(api.DoGoOn, 0).to(s, x, i)
 	}
-	return api.DoLeave
+	return becomes(api.DoLeave, 0).to(s, x, i)
 }
 
 func desired(s api.State, x api.Event) (api.State, api.Errno) {
@@ -183,11 +185,7 @@ func rollback(s api.State, _ api.Event) (api.State, api.Errno) {
 	return next, api.OK
 }
 
-func hold(s api.State, x api.Event) (api.State, api.Errno) {
-	i, ok := sums.Find(s.Insts, x.Id)
-	if !ok {
-		return s, api.ErrNone
-	}
+func hold(s api.State, x api.Event, i api.Inst) (api.State, api.Errno) {
 	i.Held = x.On
 	l, e := sums.Set(s.Insts, i)
 	if e != api.OK {
@@ -230,12 +228,12 @@ func refused(s api.State, x api.Event) (api.State, api.Errno) {
 	return refuse(s, o), api.OK
 }
 
-func gone(s api.State, x api.Event) (api.State, api.Errno) {
-	l, e := sums.Drop(s.Insts, x.Id)
+func gone(s api.State, _ api.Event, i api.Inst) (api.State, api.Errno) {
+	l, e := sums.Drop(s.Insts, i.Id)
 	if e != api.OK {
 		return s, e
 	}
-	s.Insts, s.Opens = l, ledger.Forget(s.Opens, x.Id)
+	s.Insts, s.Opens = l, ledger.Forget(s.Opens, i.Id)
 	return s, api.OK
 }
 
